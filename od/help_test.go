@@ -252,14 +252,14 @@ func (k book) save() string {
 	s := ""
 	for _, r := range k.sorted() {
 		if r.entry.Access == api.ReadWrite {
-			s += saved(r.entry.Index, r.entry.Sub, r.raw)
+			s += savedAs(r.entry.Index, r.entry.Sub, r.raw)
 		}
 	}
 	return s
 }
 
-// saved is one entry of what Save tells.
-func saved(index uint16, sub uint8, raw string) string {
+// savedAs is one entry of what Save tells.
+func savedAs(index uint16, sub uint8, raw string) string {
 	b := binary.LittleEndian.AppendUint16(nil, index)
 	b = append(b, sub)
 	b = binary.LittleEndian.AppendUint32(b, uint32(len(raw)))
@@ -289,10 +289,15 @@ func pieces(s string) ([]piece, bool) {
 
 func (k book) load(s string) api.Errno {
 	l, whole := pieces(s)
-	for i, p := range l {
-		if i > 0 && (p.index < l[i-1].index || p.index == l[i-1].index && p.sub <= l[i-1].sub) {
-			return api.ErrForm
+	for i := range l {
+		for _, p := range l[:i] {
+			whole = whole && (p.index < l[i].index || p.index == l[i].index && p.sub < l[i].sub)
 		}
+	}
+	if !whole {
+		return api.ErrForm
+	}
+	for _, p := range l {
 		r, _ := k.at(p.index, p.sub)
 		if r == nil || r.entry.Access != api.ReadWrite {
 			return api.ErrNone
@@ -300,9 +305,6 @@ func (k book) load(s string) api.Errno {
 		if lengthCode(r.entry.Default.Type, p.raw) != api.Fine {
 			return api.ErrForm
 		}
-	}
-	if !whole {
-		return api.ErrForm
 	}
 	for _, p := range l {
 		r, _ := k.at(p.index, p.sub)

@@ -398,13 +398,13 @@ func TestEntryListReset(t *testing.T) {
 		wantWrite(t, d, 0x2000, 2, "\x09", api.Fine)
 		wantWrite(t, d, 0x2000, 1, "", api.Fine)
 		wantSet(t, d, 0x1fff, 200, num(api.Int32, 1<<30), api.OK)
-		wantLoad(t, d, saved(0x2001, 0, "abc"), api.OK)
+		wantLoad(t, d, savedAs(0x2001, 0, "abc"), api.OK)
 		was := k
 		k = bookOf(l)
 		k.write(0x2000, 2, "\x09")
 		k.write(0x2000, 1, "")
 		k.set(0x1fff, 200, num(api.Int32, 1<<30))
-		k.load(saved(0x2001, 0, "abc"))
+		k.load(savedAs(0x2001, 0, "abc"))
 		wantSame(t, d, k)
 		d.Reset()
 		k = was
@@ -440,7 +440,7 @@ func TestMemory(t *testing.T) {
 	}
 	clear(room)
 	wantSame(t, d, k)
-	for _, s := range []string{"wxyz", saved(9, 1, "qrst")} {
+	for _, s := range []string{"wxyz", savedAs(9, 1, "qrst")} {
 		b := []byte(s + "spare")
 		given := b[:len(s)]
 		if len(s) == 4 {

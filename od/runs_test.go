@@ -57,7 +57,7 @@ func (r *dice) list(k book) string {
 		if r.once(20) {
 			raw = r.raw(row.entry.Default.Type)
 		}
-		one := saved(row.entry.Index, row.entry.Sub, raw)
+		one := savedAs(row.entry.Index, row.entry.Sub, raw)
 		switch {
 		case r.once(40):
 			b = one + b
@@ -133,7 +133,7 @@ func TestConst(t *testing.T) {
 		d := made(t, entry(1, 2, api.Const, first))
 		raw, _ := rawOf(num(typ, 0))
 		wantSet(t, d, 1, 2, num(typ, 0), api.ErrArg)
-		wantLoad(t, d, saved(1, 2, raw), api.ErrNone)
+		wantLoad(t, d, savedAs(1, 2, raw), api.ErrNone)
 		wantWrite(t, d, 1, 2, raw, api.NoWrite)
 		wantGet(t, d, 1, 2, clean(first), api.OK)
 	}

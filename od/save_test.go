@@ -70,7 +70,7 @@ func TestLoad(t *testing.T) {
 		d, k := saver(t)
 		b := ""
 		for _, p := range x {
-			b += saved(p.index, p.sub, p.raw)
+			b += savedAs(p.index, p.sub, p.raw)
 		}
 		wantLoad(t, d, b, api.OK)
 		if err := k.load(b); err != api.OK {
@@ -90,8 +90,8 @@ func TestLoad(t *testing.T) {
 
 // P8.4, P8.5: what is refused, by which error, and that nothing is changed by it, though the entries ahead were good.
 func TestLoadRefused(t *testing.T) {
-	fine := saved(0x2000, 1, "\x04") + saved(0x2000, 5, "\x01\x00")
-	behind := saved(0x2001, 0, "text")
+	fine := savedAs(0x2000, 1, "\x04") + savedAs(0x2000, 5, "\x01\x00")
+	behind := savedAs(0x2001, 0, "text")
 	for _, x := range []struct {
 		b    string
 		want api.Errno
@@ -103,22 +103,24 @@ func TestLoadRefused(t *testing.T) {
 		// Cut short is ahead of not being there.
 		{"\x00\x30\x00\x01\x00\x00\x00", api.ErrForm}, {"\x00\x30\x00\x00\x00\x00\x80ab", api.ErrForm},
 		// Out of order, and twice.
-		{saved(0x2000, 5, "\x01\x00") + saved(0x2000, 1, "\x04"), api.ErrForm}, {behind + fine, api.ErrForm}, {behind + saved(0x2000, 5, "\x00\x00"), api.ErrForm},
-		{saved(0x2000, 1, "\x04") + saved(0x2000, 1, "\x04"), api.ErrForm}, {saved(0x2003, 0, "") + saved(0x2003, 0, ""), api.ErrForm},
+		{savedAs(0x2000, 5, "\x01\x00") + savedAs(0x2000, 1, "\x04"), api.ErrForm}, {behind + fine, api.ErrForm}, {behind + savedAs(0x2000, 5, "\x00\x00"), api.ErrForm},
+		{savedAs(0x2000, 1, "\x04") + savedAs(0x2000, 1, "\x04"), api.ErrForm}, {savedAs(0x2003, 0, "") + savedAs(0x2003, 0, ""), api.ErrForm},
 		// Out of order is ahead of not being there, and of bytes that are refused.
-		{behind + saved(0x1000, 0, ""), api.ErrForm}, {behind + saved(0x2000, 2, "\x03"), api.ErrForm}, {behind + saved(0x2000, 1, "\x04\x04"), api.ErrForm},
+		{behind + savedAs(0x1000, 0, ""), api.ErrForm}, {behind + savedAs(0x2000, 2, "\x03"), api.ErrForm}, {behind + savedAs(0x2000, 1, "\x04\x04"), api.ErrForm},
 		// Not there, and not ReadWrite, whatever the bytes are.
-		{saved(0x1000, 0, ""), api.ErrNone}, {saved(0x2000, 0, "\x04"), api.ErrNone}, {saved(0x2000, 6, "\x04"), api.ErrNone}, {saved(0xffff, 255, "\x04"), api.ErrNone}, {saved(0, 0, ""), api.ErrNone},
-		{saved(0x2000, 2, "\x03"), api.ErrNone}, {saved(0x2000, 3, "\x03"), api.ErrNone}, {saved(0x2000, 4, "\x03"), api.ErrNone},
-		{saved(0x2000, 2, ""), api.ErrNone}, {saved(0x2000, 3, "\x03\x03"), api.ErrNone}, {saved(0x2000, 4, strings.Repeat("a", most+1)), api.ErrNone},
-		{saved(0x1000, 0, strings.Repeat("a", most+1)), api.ErrNone},
+		{savedAs(0x1000, 0, ""), api.ErrNone}, {savedAs(0x2000, 0, "\x04"), api.ErrNone}, {savedAs(0x2000, 6, "\x04"), api.ErrNone}, {savedAs(0xffff, 255, "\x04"), api.ErrNone}, {savedAs(0, 0, ""), api.ErrNone},
+		{savedAs(0x2000, 2, "\x03"), api.ErrNone}, {savedAs(0x2000, 3, "\x03"), api.ErrNone}, {savedAs(0x2000, 4, "\x03"), api.ErrNone},
+		{savedAs(0x2000, 2, ""), api.ErrNone}, {savedAs(0x2000, 3, "\x03\x03"), api.ErrNone}, {savedAs(0x2000, 4, strings.Repeat("a", most+1)), api.ErrNone},
+		{savedAs(0x1000, 0, strings.Repeat("a", most+1)), api.ErrNone},
 		// Bytes that are no value.
-		{saved(0x2000, 1, ""), api.ErrForm}, {saved(0x2000, 1, "\x04\x00"), api.ErrForm}, {saved(0x2000, 5, "\x01"), api.ErrForm},
-		{saved(0x2001, 0, "a\n"), api.ErrForm}, {saved(0x2002, 0, "\x02"), api.ErrForm}, {saved(0x2003, 0, strings.Repeat("a", most+1)), api.ErrForm},
-		// Which entry is refused first says which error it is.
-		{saved(0x1000, 0, "") + saved(0x2000, 1, ""), api.ErrNone}, {saved(0x2000, 1, "") + saved(0x3000, 0, ""), api.ErrForm},
-		{saved(0x1000, 0, "") + "\x00", api.ErrNone}, {saved(0x2000, 2, "\x03") + saved(0x2000, 1, "\x04"), api.ErrNone},
-		{saved(0x2000, 0, "") + saved(0x2000, 0, ""), api.ErrNone},
+		{savedAs(0x2000, 1, ""), api.ErrForm}, {savedAs(0x2000, 1, "\x04\x00"), api.ErrForm}, {savedAs(0x2000, 5, "\x01"), api.ErrForm},
+		{savedAs(0x2001, 0, "a\n"), api.ErrForm}, {savedAs(0x2002, 0, "\x02"), api.ErrForm}, {savedAs(0x2003, 0, strings.Repeat("a", most+1)), api.ErrForm},
+		// Of a list, which entry is refused first says which error it is.
+		{savedAs(0x1000, 0, "") + savedAs(0x2000, 1, ""), api.ErrNone}, {savedAs(0x2000, 1, "") + savedAs(0x3000, 0, ""), api.ErrForm},
+		// No list at all is ahead of an entry that is not there or not ReadWrite, wherever that stands.
+		{savedAs(0x1000, 0, "") + "\x00", api.ErrForm}, {savedAs(0x2000, 2, "\x03") + savedAs(0x2000, 1, "\x04"), api.ErrForm},
+		{savedAs(0x2000, 0, "") + savedAs(0x2000, 0, ""), api.ErrForm}, {savedAs(0x2000, 3, "") + savedAs(0x2000, 5, "\x01\x00") + "\x01\x20\x00\x04\x00\x00\x00abc", api.ErrForm},
+		{savedAs(0x1000, 0, "") + savedAs(0x2000, 5, "\x01\x00") + savedAs(0x2000, 1, "\x04"), api.ErrForm},
 	} {
 		for _, ahead := range []string{"", fine, fine + behind} {
 			want := x.want
@@ -141,9 +143,10 @@ func TestLoadRefused(t *testing.T) {
 		b    string
 		want api.Errno
 	}{
-		{"\x00", api.ErrForm}, {"\x02\x20\x00\x01\x00\x00\x00", api.ErrForm}, {saved(0x2001, 0, ""), api.ErrForm}, {saved(0x2000, 1, "\x02"), api.ErrForm},
-		{saved(0x2001, 1, ""), api.ErrNone}, {saved(0x2004, 0, ""), api.ErrNone}, {saved(0x2002, 0, "\x02"), api.ErrForm}, {saved(0x2002, 0, ""), api.ErrForm},
-		{saved(0x2003, 0, strings.Repeat("a", most+1)), api.ErrForm}, {saved(0x2003, 0, "a") + "\x04", api.ErrForm}, {saved(0x2004, 0, "a") + "\x04", api.ErrNone},
+		{"\x00", api.ErrForm}, {"\x02\x20\x00\x01\x00\x00\x00", api.ErrForm}, {savedAs(0x2001, 0, ""), api.ErrForm}, {savedAs(0x2000, 1, "\x02"), api.ErrForm},
+		{savedAs(0x2001, 1, ""), api.ErrNone}, {savedAs(0x2004, 0, ""), api.ErrNone}, {savedAs(0x2002, 0, "\x02"), api.ErrForm}, {savedAs(0x2002, 0, ""), api.ErrForm},
+		{savedAs(0x2003, 0, strings.Repeat("a", most+1)), api.ErrForm}, {savedAs(0x2003, 0, "a") + "\x04", api.ErrForm}, {savedAs(0x2004, 0, "a") + "\x04", api.ErrForm},
+		{savedAs(0x2001, 1, "") + savedAs(0x2001, 0, ""), api.ErrForm}, {savedAs(0x2001, 1, "") + savedAs(0x2002, 0, "\x02"), api.ErrNone}, {savedAs(0x2002, 0, "\x02") + savedAs(0x2004, 0, ""), api.ErrForm},
 	} {
 		d, k := saver(t)
 		wantLoad(t, d, good+x.b, x.want)
@@ -151,9 +154,9 @@ func TestLoadRefused(t *testing.T) {
 	}
 	// An entry of no bytes at the first place of all is behind nothing.
 	d := made(t, entry(0, 0, api.ReadWrite, txt(api.Text, "a")))
-	wantLoad(t, d, saved(0, 0, ""), api.OK)
+	wantLoad(t, d, savedAs(0, 0, ""), api.OK)
 	wantGet(t, d, 0, 0, txt(api.Text, ""), api.OK)
-	wantLoad(t, d, saved(0, 0, "b")+saved(0, 0, "b"), api.ErrForm)
+	wantLoad(t, d, savedAs(0, 0, "b")+savedAs(0, 0, "b"), api.ErrForm)
 	wantGet(t, d, 0, 0, txt(api.Text, ""), api.OK)
 }
 
@@ -173,6 +176,29 @@ func TestLoadCut(t *testing.T) {
 			}
 		}
 		wantLoad(t, d, whole[:n], want)
+		wantSame(t, d, k)
+	}
+}
+
+// P8.4: whether bytes are a list is asked of all of them, ahead of what one entry says: a dictionary without entries, and one with few.
+func TestLoadListFirst(t *testing.T) {
+	few := []api.Entry{entry(1, 0, api.ReadWrite, num(api.Uint8, 1)), entry(3, 0, api.ReadOnly, num(api.Uint8, 1))}
+	for _, x := range []struct {
+		l    []api.Entry
+		b    string
+		want api.Errno
+	}{
+		{nil, "", api.OK}, {nil, "\x00", api.ErrForm}, {nil, savedAs(0, 0, ""), api.ErrNone}, {nil, savedAs(0, 0, "") + "\x00", api.ErrForm},
+		{nil, savedAs(0, 0, "") + savedAs(0, 1, ""), api.ErrNone}, {nil, savedAs(0, 0, "") + savedAs(0, 0, ""), api.ErrForm},
+		{few, savedAs(2, 0, "") + savedAs(1, 0, "\x07"), api.ErrForm}, {few, savedAs(1, 0, "\x07") + savedAs(2, 0, ""), api.ErrNone},
+		{few, savedAs(1, 0, "\x07") + savedAs(3, 0, "\x07") + "\x04", api.ErrForm}, {few, savedAs(1, 0, "\x07") + savedAs(3, 0, "\x07"), api.ErrNone},
+		{few, savedAs(1, 0, "\x07\x07") + savedAs(2, 0, ""), api.ErrForm}, {few, savedAs(1, 0, "\x07"), api.OK},
+	} {
+		d, k := made(t, x.l...), bookOf(x.l)
+		wantLoad(t, d, x.b, x.want)
+		if err := k.load(x.b); err != x.want {
+			t.Fatalf("the book: %d, want %d", err, x.want)
+		}
 		wantSame(t, d, k)
 	}
 }
